@@ -277,7 +277,8 @@ func eachProgram(names []string, things int, visit func(l []api.Module)) {
 	from(nil, names, things)
 }
 
-func TestEveryShortProgram(t *testing.T) {
+// All programs of at most two things, and one in fifteen of those of three, for the time it takes.
+func TestShortPrograms(t *testing.T) {
 	m := newModel()
 	kinds := map[api.Errno]int{}
 	for _, c := range []struct {
@@ -286,7 +287,7 @@ func TestEveryShortProgram(t *testing.T) {
 	}{{"a", 2}, {"a b", 3}, {"b a", 2}, {"a a", 1}, {"a b a", 1}, {"a b c", 2}} {
 		turn := 0
 		eachProgram(strings.Fields(c.names), c.things, func(l []api.Module) {
-			if turn++; lets(l) == 3 && turn%15 > 0 { // some of them, for the time it takes
+			if turn++; lets(l) == 3 && turn%15 > 0 {
 				return
 			}
 			l = placed(l)

@@ -9,6 +9,7 @@ import (
 	"culprit/core"
 	"culprit/eval"
 	"culprit/safe"
+	"culprit/sample"
 )
 
 // mayBlame tells by the casts alone whether a blame of a term may be: not all casts of its label are safe on its side.
@@ -34,17 +35,17 @@ func blames(r api.Result) (all []int64) {
 
 // W1: of a term that checks a label is blamed only where not all its casts are safe on that side, by the run or in what is seen.
 func TestWhoIsBlamed(t *testing.T) {
-	g := maker{dice: 21}
+	g := sample.Maker{Dice: 21}
 	runs, parts, inside, context, safeOnes := 0, 0, 0, 0, 0
 	for range 40000 {
-		l := g.dealt()
+		l := g.Deal()
 		r, e := eval.Run(l, 200, 8)
 		if e != api.OK {
-			t.Fatalf("the tests' own maker made what does not check: %s", written(l))
+			t.Fatalf("the tests' own maker made what does not check: %s", sample.Written(l))
 		}
 		for _, blame := range blames(r) {
 			if !mayBlame(l, blame) {
-				t.Fatalf("W1: %d is blamed, but its casts are safe on that side: %s", blame, written(l))
+				t.Fatalf("W1: %d is blamed, but its casts are safe on that side: %s", blame, sample.Written(l))
 			}
 			if blame > 0 {
 				inside++
@@ -67,51 +68,40 @@ func TestWhoIsBlamed(t *testing.T) {
 	}
 }
 
-// W1, by hand, with the casts of a function and of a box, which turn the sides round.
+// W1, by hand: wherever a run of the rows blames, not all casts of the label are safe on that side.
 func TestWhoIsBlamedByHand(t *testing.T) {
-	for _, c := range []struct {
-		text  string
-		blame int64
-		steps int
-	}{
-		{"Cast ? i 2 (Cast b ? 1 (Truth 1))", 2, 0},
-		{"Call(Cast >ii >?i 7 (Fn i i (Var 0)), Cast b ? 1 (Truth 1))", -7, 1},
-		{"Call(Cast >i? >ii 7 (Fn i ? (Cast b ? 1 (Truth 1))), Num 1)", 7, 1},
-		{"Get(Cast x? xi 7 (Box(Cast b ? 1 (Truth 1))))", 7, 2},
-		{"Set(Cast xi x? 7 (Box(Num 1)), Cast b ? 1 (Truth 1))", -7, 2},
-		{"Call(Cast ? >?? 8 (Cast >ii ? 7 (Fn i i (Var 0))), Cast b ? 1 (Truth 1))", -7, 1},
-		{"Call(Cast ? >ib 8 (Cast >ii ? 7 (Fn i i (Var 0))), Num 1)", 8, 1},
-		{"Call(Cast ? >bi 8 (Cast >ii ? 7 (Fn i i (Var 0))), Truth 1)", -7, 1},
-		{"Call(Cast >>iii >>i?i 7 (Fn >ii i (Call(Var 0, Num 1))), Fn i ? (Cast b ? 1 (Truth 1)))", -7, 2},
-		{"Call(Cast >>?ii >>iii 7 (Fn >?i i (Call(Var 0, Cast b ? 1 (Truth 1)))), Fn i i (Var 0))", 7, 2},
-	} {
-		gives(t, c.text, told([]api.Obs{{Kind: api.OBlame, N: c.blame}}), c.steps)
-		if l := term(c.text); !mayBlame(l, c.blame) {
-			t.Errorf("W1: %s", c.text)
+	blamed := 0
+	for _, row := range sample.Rows() {
+		r, _ := eval.Run(row.Term, api.MaxFuel, row.Depth)
+		for _, blame := range blames(r) {
+			if blamed++; !mayBlame(row.Term, blame) {
+				t.Errorf("W1: %s blames %d", sample.Written(row.Term), blame)
+			}
 		}
 	}
-	// The same label on two casts: one of them alone is not safe.
-	gives(t, "Pair(Cast i ? 1 (Num 1), Cast ? i 1 (Cast b ? 1 (Truth 1)))", "blame1", 0)
+	if blamed < 30 {
+		t.Errorf("too few blames by hand: %d", blamed)
+	}
 }
 
 // Without a ? in its annotations nobody is blamed: casts there are from a type to itself.
 func TestNobodyIsBlamedWithoutUnknown(t *testing.T) {
-	g := maker{dice: 22, static: true}
+	g := sample.Maker{Dice: 22, Static: true}
 	casts, values, faults := 0, 0, 0
 	for range 10000 {
-		l := g.dealt()
+		l := g.Deal()
 		if slices.ContainsFunc(l, func(n api.Node) bool { return strings.Contains(n.T+n.U, "?") }) {
-			t.Fatalf("the tests' own maker made a ?: %s", written(l))
+			t.Fatalf("the tests' own maker made a ?: %s", sample.Written(l))
 		}
 		r, e := eval.Run(l, 200, 8)
 		if e != api.OK || len(blames(r)) > 0 {
-			t.Fatalf("W1: %s: %d, %s", written(l), e, told(r.Seen))
+			t.Fatalf("W1: %s: %d, %s", sample.Written(l), e, sample.Told(r.Seen))
 		}
 		// And so the casts change nothing.
 		bare := slices.DeleteFunc(slices.Clone(l), func(n api.Node) bool { return n.Kind == api.Cast })
 		casts += len(l) - len(bare)
 		if got, want := ran(bare, 200, 8), outcomeOf(r, e, 0); got != want {
-			t.Fatalf("what follows: without its casts %s: %s; with them %s", written(l), shown(got), shown(want))
+			t.Fatalf("what follows: without its casts %s: %s; with them %s", sample.Written(l), shown(got), shown(want))
 		}
 		if r.Seen[0].Kind == api.OFault {
 			faults++
@@ -126,21 +116,21 @@ func TestNobodyIsBlamedWithoutUnknown(t *testing.T) {
 
 // W6: no run of a term that checks is stuck, nor is a part of what is seen.
 func TestNothingIsStuck(t *testing.T) {
-	g := maker{dice: 23}
+	g := sample.Maker{Dice: 23}
 	for range 20000 {
-		l := g.dealt()
+		l := g.Deal()
 		r, e, node := eval.Loose(l, 200, 12)
 		if e != api.OK || node != 0 || slices.Contains(r.Seen, api.Obs{Kind: api.OFault, N: int64(api.ErrStuck)}) {
-			t.Fatalf("W6: %s: %d, %s, at %d", written(l), e, told(r.Seen), node)
+			t.Fatalf("W6: %s: %d, %s, at %d", sample.Written(l), e, sample.Told(r.Seen), node)
 		}
 	}
 	checked := 0
 	for nodes := 1; nodes <= 4; nodes++ {
-		eachTree(someNodes(), nodes, func(l []api.Node) {
+		sample.EachTree(sample.SomeNodes(), nodes, func(l []api.Node) {
 			if _, e, _ := core.Check(l); e == api.OK {
 				checked++
 				if o := ran(l, 30, 5); strings.Contains(o.seen, "fault32") {
-					t.Fatalf("W6: %s: %s", written(l), shown(o))
+					t.Fatalf("W6: %s: %s", sample.Written(l), shown(o))
 				}
 			}
 		})
@@ -152,16 +142,16 @@ func TestNothingIsStuck(t *testing.T) {
 
 // A run that ends within its fuel ends alike with more; with less than its steps it is out of fuel.
 func TestFuelOfDealtTerms(t *testing.T) {
-	g := maker{dice: 24}
+	g := sample.Maker{Dice: 24}
 	ended, endless := 0, 0
 	for range 4000 {
-		l := g.dealt()
-		if g.below(3) == 0 {
-			l = g.spoilt(l)
+		l := g.Deal()
+		if g.Below(3) == 0 {
+			l = g.Spoilt(l)
 		}
 		o := ranLoose(l, 120, 5)
 		if o.e != api.OK {
-			t.Fatalf("the tests' own list %s: %s", written(l), shown(o))
+			t.Fatalf("the tests' own list %s: %s", sample.Written(l), shown(o))
 		}
 		if o.seen == "fuel" {
 			endless++
@@ -179,12 +169,4 @@ func TestFuelOfDealtTerms(t *testing.T) {
 	if ended < 3000 || endless < 10 {
 		t.Errorf("too few runs: %d, %d out of fuel", ended, endless)
 	}
-}
-
-// All boxes of a run are of one heap: what one part makes each other one may take, through pairs, lists, functions, boxes and casts.
-func TestOneHeap(t *testing.T) {
-	gives(t, "Let(Box(Box(Num 1)), Let(Fn xxi xi (Get(Var 0)), Let(Set(Call(Var 0, Var 1), Num 5), Get(Get(Var 2)))))", "num5", 7)
-	gives(t, "Let(Pair(Box(Num 1), List xi (Box(Num 2))), Let(Set(First(Var 0), Get(Head(Second(Var 0)))), Get(First(Var 1))))", "num2", 11)
-	gives(t, "Let(Cast xi ? 1 (Box(Num 1)), Let(Cast ? xi 2 (Var 0), Let(Set(Var 0, Num 8), Get(Cast ? x? 3 (Var 2)))))", "num8", 3)
-	gives(t, "Let(Box(Num 0), Let(Rec i i (If(Eq(Var 0, Num 0), Get(Var 2), Let(Set(Var 2, Add(Get(Var 2), Var 0)), Call(Var 2, Sub(Var 1, Num 1))))), Call(Var 0, Num 4)))", "num10", 1+1+4*7+3)
 }

@@ -8,6 +8,7 @@ import (
 	"culprit/api"
 	"culprit/core"
 	"culprit/heap"
+	"culprit/sample"
 	"culprit/value"
 )
 
@@ -38,7 +39,7 @@ func modelled(l []api.Node, fuel, depth int) outcome {
 	if end != "" {
 		return outcome{seen: string(end), steps: m.steps, node: m.node}
 	}
-	return outcome{seen: told(value.Seen(v, depth)), steps: m.steps}
+	return outcome{seen: sample.Told(value.Seen(v, depth)), steps: m.steps}
 }
 
 // behind: where the part at a node ends.
@@ -56,7 +57,7 @@ func (m *model) refused(at int, label int64, e api.Errno) ended {
 	case api.OK:
 		return ""
 	case api.ErrBlame:
-		return ended(told([]api.Obs{{Kind: api.OBlame, N: label}}))
+		return ended(sample.Told([]api.Obs{{Kind: api.OBlame, N: label}}))
 	case api.ErrGone:
 		return "fault34"
 	}
@@ -71,7 +72,7 @@ func (m *model) of(at int, v value.Value, label int64, e api.Errno) (value.Value
 // run runs the part at a node, and answers where it ends.
 func (m *model) run(at int, env []value.Value) (v value.Value, end int, why ended) {
 	n := m.l[at]
-	kind := kindNames()[n.Kind-1]
+	kind := sample.KindNames()[n.Kind-1]
 	end = m.behind(at)
 	var kids []value.Value
 	next := at + 1
@@ -241,63 +242,27 @@ func wantAsModel(t *testing.T, l []api.Node, fuel, depth int) outcome {
 	t.Helper()
 	w := modelled(l, fuel, depth)
 	if got := ranLoose(l, fuel, depth); got != w {
-		t.Fatalf("P16.2: fuel %d, depth %d: %s: %s; want %s", fuel, depth, written(l), shown(got), shown(w))
+		t.Fatalf("P16.2: fuel %d, depth %d: %s: %s; want %s", fuel, depth, sample.Written(l), shown(got), shown(w))
 	}
 	_, e, _ := core.Check(l)
 	if e != api.OK {
 		w = outcome{e: e}
 	}
 	if got := ran(l, fuel, depth); got != w {
-		t.Fatalf("P16.1: fuel %d, depth %d: %s: %s; want %s", fuel, depth, written(l), shown(got), shown(w))
+		t.Fatalf("P16.1: fuel %d, depth %d: %s: %s; want %s", fuel, depth, sample.Written(l), shown(got), shown(w))
 	}
 	return w
-}
-
-// eachTree visits the terms of just so many nodes, each of which is one of some.
-func eachTree(some []api.Node, nodes int, visit func(l []api.Node)) {
-	var from func(l []api.Node, missing int)
-	from = func(l []api.Node, missing int) {
-		if missing == 0 {
-			if len(l) == nodes {
-				visit(l)
-			}
-			return
-		}
-		if len(l)+missing > nodes {
-			return
-		}
-		for _, n := range some {
-			from(append(slices.Clone(l), n), missing-1+n.Kids)
-		}
-	}
-	from(nil, 1)
-}
-
-// someNodes: of each kind one or some.
-func someNodes() []api.Node {
-	l := []api.Node{{Kind: api.Num, N: 1}, {Kind: api.Str, S: "a"}, {Kind: api.Truth, N: 1}, {Kind: api.Truth}, {Kind: api.Var}, {Kind: api.Var, N: 1},
-		{Kind: api.List, T: "i"}, {Kind: api.List, Kids: 1, T: "i"}, {Kind: api.List, Kids: 2, T: "?"},
-		{Kind: api.Fn, Kids: 1, T: "i", U: "i"}, {Kind: api.Fn, Kids: 1, T: "?", U: "?"}, {Kind: api.Rec, Kids: 1, T: "i", U: "i"}, {Kind: api.Rec, Kids: 1, T: "?", U: "?"},
-		{Kind: api.Cast, Kids: 1, T: "i", U: "?", N: 1}, {Kind: api.Cast, Kids: 1, T: "?", U: "t", N: 2}, {Kind: api.Cast, Kids: 1, T: ">ii", U: ">?i", N: 3}, {Kind: api.Cast, Kids: 1, T: "l?", U: "li", N: 4}, {Kind: api.Cast, Kids: 1, T: "xi", U: "x?", N: 5},
-		{Kind: api.If, Kids: 3}}
-	for _, kind := range []int8{api.Neg, api.Size, api.First, api.Second, api.Head, api.Tail, api.Empty, api.Box, api.Get} {
-		l = append(l, api.Node{Kind: kind, Kids: 1})
-	}
-	for _, kind := range []int8{api.Call, api.Let, api.Add, api.Join, api.Less, api.Pair, api.Cons, api.Set} {
-		l = append(l, api.Node{Kind: kind, Kids: 2})
-	}
-	return l
 }
 
 func TestEveryShortTerm(t *testing.T) {
 	counts := map[string]int{}
 	checked := 0
 	for nodes := 1; nodes <= 4; nodes++ {
-		eachTree(someNodes(), nodes, func(l []api.Node) {
+		sample.EachTree(sample.SomeNodes(), nodes, func(l []api.Node) {
 			if wantAsModel(t, l, 20, 4).e == api.OK {
 				checked++
 			}
-			counts[first(ranLoose(l, 20, 4).seen)]++
+			counts[sample.First(ranLoose(l, 20, 4).seen)]++
 		})
 	}
 	t.Log(checked, counts)
@@ -315,9 +280,9 @@ func TestEveryTermOfSomeKinds(t *testing.T) {
 	} {
 		counts := map[string]int{}
 		for nodes := 1; nodes <= 7 && (nodes < 7 || len(some) < 8); nodes++ {
-			eachTree(some, nodes, func(l []api.Node) {
+			sample.EachTree(some, nodes, func(l []api.Node) {
 				wantAsModel(t, l, 12, 3)
-				counts[first(ranLoose(l, 12, 3).seen)]++
+				counts[sample.First(ranLoose(l, 12, 3).seen)]++
 			})
 		}
 		t.Log(counts)
@@ -328,31 +293,31 @@ func TestEveryTermOfSomeKinds(t *testing.T) {
 }
 
 func TestDealtTerms(t *testing.T) {
-	g := maker{dice: 10}
+	g := sample.Maker{Dice: 10}
 	counts, kinds, longest, most := map[string]int{}, map[int8]int{}, 0, 0
 	for range 8000 {
-		l := g.dealt()
+		l := g.Deal()
 		if _, e, at := core.Check(l); e != api.OK {
-			t.Fatalf("the tests' own maker made what does not check: %d at %d of %s", e, at, written(l))
+			t.Fatalf("the tests' own maker made what does not check: %d at %d of %s", e, at, sample.Written(l))
 		}
 		o := wantAsModel(t, l, 150, 6)
-		counts[first(o.seen)]++
+		counts[sample.First(o.seen)]++
 		longest, most = max(longest, len(l)), max(most, o.steps)
 		for _, n := range l {
 			kinds[n.Kind]++
 		}
-		wantAsModel(t, l, g.below(o.steps+1), g.below(9))
+		wantAsModel(t, l, g.Below(o.steps+1), g.Below(9))
 		for range 3 {
-			l = g.spoilt(l)
+			l = g.Spoilt(l)
 			o := wantAsModel(t, l, 150, 6)
 			if o.e != api.OK {
-				counts["loose "+first(ranLoose(l, 150, 6).seen)]++
+				counts["loose "+sample.First(ranLoose(l, 150, 6).seen)]++
 			}
 		}
 	}
 	t.Logf("%v %v, %d nodes, %d steps", counts, kinds, longest, most)
-	for _, name := range kindNames() {
-		if kinds[kindOf(name)] < 200 && name != "As" {
+	for _, name := range sample.KindNames() {
+		if kinds[sample.KindOf(name)] < 200 && name != "As" {
 			t.Errorf("too few kinds of nodes were dealt: %v", kinds)
 		}
 	}
@@ -361,13 +326,4 @@ func TestDealtTerms(t *testing.T) {
 			t.Errorf("too few kinds of runs were dealt: %v", counts)
 		}
 	}
-}
-
-// first: the first word of what is seen, without a number or a text; of faults with the number.
-func first(seen string) string {
-	word := strings.Split(seen, " ")[0]
-	if strings.HasPrefix(word, "fault") {
-		return word
-	}
-	return strings.TrimRight(strings.Split(word, `"`)[0], "-0123456789")
 }

@@ -7,6 +7,7 @@ import (
 	"testing"
 
 	"culprit/api"
+	"culprit/sample"
 )
 
 func TestStuckVars(t *testing.T) {
@@ -23,10 +24,10 @@ func TestStuckVars(t *testing.T) {
 	isStuck(t, "Call(Fn i i (Var 0), Var 0)", 3, 0)
 	isStuck(t, "Call(Var 0, Var 0)", 1, 0)
 	for _, distance := range []int64{1, 2, 3, 1 << 32, 1<<32 + 1, math.MaxInt64, -1, -2, -1 << 32, math.MinInt64} {
-		l := of(api.Let, num(1), name(distance))
+		l := sample.Of(api.Let, sample.Num(1), sample.Var(distance))
 		wantLoose(t, l, 9, outcome{seen: "fault32", node: 2})
 		// What is called knows nothing of the binders where it is called.
-		l = of(api.Let, fn("i", "i", name(2+max(distance, -3))), of(api.Let, num(1), of(api.Let, num(1), of(api.Call, name(2), num(1)))))
+		l = sample.Of(api.Let, sample.Fn("i", "i", sample.Var(2+max(distance, -3))), sample.Of(api.Let, sample.Num(1), sample.Of(api.Let, sample.Num(1), sample.Of(api.Call, sample.Var(2), sample.Num(1)))))
 		if distance < math.MaxInt64 {
 			wantLoose(t, l, 9, outcome{seen: "fault32", node: 2, steps: 1}.orArgument(2+max(distance, -3)))
 		}
@@ -172,7 +173,7 @@ func TestLooseRuns(t *testing.T) {
 	// Stuck ahead of the others' blame.
 	isStuck(t, "Pair(Neg(Str a), Cast ? i 3 (Cast b ? 2 (Truth 1)))", 1, 1)
 	// Without types a function finds itself: it goes on till the fuel is used up.
-	l := term("Let(Fn ? ? (Call(Var 0, Var 0)), Call(Var 0, Var 0))")
+	l := sample.Term("Let(Fn ? ? (Call(Var 0, Var 0)), Call(Var 0, Var 0))")
 	for _, fuel := range []int{0, 1, 50, 2048} {
 		want(t, "P16.2", l, ranLoose(l, fuel, 4), outcome{seen: "fuel", steps: fuel})
 	}

@@ -1,4 +1,4 @@
-package eval
+package steps
 
 import (
 	"culprit/api"
@@ -6,7 +6,7 @@ import (
 )
 
 // works answers what each kind of node does when the kids that are run ahead of it have given what they give, the last one's on top.
-func (m *machine) works() map[int8]func(here) {
+func (m *Machine) works() map[int8]func(here) {
 	return map[int8]func(here){
 		api.Num: m.num, api.Str: m.str, api.Truth: m.truth, api.Var: m.variable,
 		api.Fn: m.fn, api.Rec: m.rec, api.Call: m.call, api.Let: m.let, api.If: m.choice, api.Cast: m.cast,
@@ -18,13 +18,13 @@ func (m *machine) works() map[int8]func(here) {
 	}
 }
 
-func (m *machine) num(n here) { m.give(value.Num(m.term[n.at].N)) }
+func (m *Machine) num(n here) { m.give(value.Num(m.term[n.at].N)) }
 
-func (m *machine) str(n here) { m.give(value.Text(m.term[n.at].S)) }
+func (m *Machine) str(n here) { m.give(value.Text(m.term[n.at].S)) }
 
-func (m *machine) truth(n here) { m.give(value.Truth(m.term[n.at].N != 0)) }
+func (m *Machine) truth(n here) { m.give(value.Truth(m.term[n.at].N != 0)) }
 
-func (m *machine) variable(n here) {
+func (m *Machine) variable(n here) {
 	v := n.scope.look(m.term[n.at].N)
 	if v == nil {
 		panic(stuck{n.at})
@@ -32,28 +32,25 @@ func (m *machine) variable(n here) {
 	m.give(v)
 }
 
-func (m *machine) cast(n here) {
-	laid := m.term[n.at]
-	m.giveGood(value.Cast(m.take(), laid.T, laid.U, laid.N))
-}
+func (m *Machine) cast(n here) { m.giveGood(m.casts(m.take(), n.at)) }
 
-func (m *machine) fn(n here) {
+func (m *Machine) fn(n here) {
 	m.give(value.Fun(code(func(x value.Value) {
-		m.later(here{n.at + 1, n.scope.bind(x)}, (*machine).visit)
+		m.later(here{n.at + 1, n.scope.bind(x)}, (*Machine).visit)
 	})))
 }
 
 // rec gives a function that finds itself, not as it is called through wrappers, but bare.
-func (m *machine) rec(n here) {
+func (m *Machine) rec(n here) {
 	var self value.Value
 	self = value.Fun(code(func(x value.Value) {
-		m.later(here{n.at + 1, n.scope.bind(self).bind(x)}, (*machine).visit)
+		m.later(here{n.at + 1, n.scope.bind(self).bind(x)}, (*Machine).visit)
 	}))
 	m.give(self)
 }
 
 // call has the body run, and then what it gave go out through the function's wrappers.
-func (m *machine) call(n here) {
+func (m *Machine) call(n here) {
 	x, f := m.take(), m.take()
 	has, e := value.Code(f)
 	m.must(0, e)
@@ -63,50 +60,50 @@ func (m *machine) call(n here) {
 	}
 	arg, label, e := value.Arg(f, x)
 	m.must(label, e)
-	m.later(n, func(m *machine, _ here) { m.giveGood(value.Res(f, m.take())) })
+	m.later(n, func(m *Machine, _ here) { m.giveGood(value.Res(f, m.take())) })
 	body(arg)
 }
 
-func (m *machine) let(n here) {
-	m.later(here{m.ends[n.at+1], n.scope.bind(m.take())}, (*machine).visit)
+func (m *Machine) let(n here) {
+	m.later(here{m.ends[n.at+1], n.scope.bind(m.take())}, (*Machine).visit)
 }
 
-func (m *machine) choice(n here) {
+func (m *Machine) choice(n here) {
 	part := m.ends[n.at+1]
 	if !m.takeTruth() {
 		part = m.ends[part]
 	}
-	m.later(here{part, n.scope}, (*machine).visit)
+	m.later(here{part, n.scope}, (*Machine).visit)
 }
 
-func (m *machine) add(here) {
+func (m *Machine) add(here) {
 	x, y := m.takeNums()
 	m.give(value.Num(x + y))
 }
 
-func (m *machine) sub(here) {
+func (m *Machine) sub(here) {
 	x, y := m.takeNums()
 	m.give(value.Num(x - y))
 }
 
-func (m *machine) mul(here) {
+func (m *Machine) mul(here) {
 	x, y := m.takeNums()
 	m.give(value.Num(x * y))
 }
 
-func (m *machine) neg(here) { m.give(value.Num(-m.takeNum())) }
+func (m *Machine) neg(here) { m.give(value.Num(-m.takeNum())) }
 
-func (m *machine) eq(here) {
+func (m *Machine) eq(here) {
 	x, y := m.takeNums()
 	m.give(value.Truth(x == y))
 }
 
-func (m *machine) less(here) {
+func (m *Machine) less(here) {
 	x, y := m.takeNums()
 	m.give(value.Truth(x < y))
 }
 
-func (m *machine) join(here) {
+func (m *Machine) join(here) {
 	y, x := m.takeText(), m.takeText()
 	if len(x)+len(y) > api.MaxBytes {
 		panic(faulted{api.ErrJoin})
@@ -114,18 +111,18 @@ func (m *machine) join(here) {
 	m.give(value.Text(x + y))
 }
 
-func (m *machine) size(here) { m.give(value.Num(int64(len(m.takeText())))) }
+func (m *Machine) size(here) { m.give(value.Num(int64(len(m.takeText())))) }
 
-func (m *machine) pair(here) {
+func (m *Machine) pair(here) {
 	second, first := m.take(), m.take()
 	m.give(value.Pair(first, second))
 }
 
-func (m *machine) first(here) { m.giveGood(value.First(m.take())) }
+func (m *Machine) first(here) { m.giveGood(value.First(m.take())) }
 
-func (m *machine) second(here) { m.giveGood(value.Second(m.take())) }
+func (m *Machine) second(here) { m.giveGood(value.Second(m.take())) }
 
-func (m *machine) list(n here) {
+func (m *Machine) list(n here) {
 	l := value.Nil()
 	for range m.term[n.at].Kids {
 		l = value.Cons(m.take(), l)
@@ -133,55 +130,55 @@ func (m *machine) list(n here) {
 	m.give(l)
 }
 
-func (m *machine) cons(here) {
+func (m *Machine) cons(here) {
 	rest, first := m.take(), m.take()
 	m.give(value.Cons(first, rest))
 }
 
-func (m *machine) head(here) { m.giveGood(value.Head(m.take())) }
+func (m *Machine) head(here) { m.giveGood(value.Head(m.take())) }
 
-func (m *machine) tail(here) { m.giveGood(value.Tail(m.take())) }
+func (m *Machine) tail(here) { m.giveGood(value.Tail(m.take())) }
 
-func (m *machine) empty(here) {
+func (m *Machine) empty(here) {
 	none, e := value.IsEmpty(m.take())
 	m.must(0, e)
 	m.give(value.Truth(none))
 }
 
-func (m *machine) box(here) {
+func (m *Machine) box(here) {
 	b, e := m.heap.Make(m.take())
 	m.giveGood(b, 0, e)
 }
 
-func (m *machine) get(here) { m.giveGood(m.heap.Get(m.take())) }
+func (m *Machine) get(here) { m.giveGood(m.heap.Get(m.take())) }
 
 // set gives the value as it was handed in, not as the box's wrappers made it.
-func (m *machine) set(here) {
+func (m *Machine) set(here) {
 	v, b := m.take(), m.take()
 	label, e := m.heap.Set(b, v)
 	m.must(label, e)
 	m.give(v)
 }
 
-func (m *machine) takeNum() int64 {
+func (m *Machine) takeNum() int64 {
 	n, e := value.AsNum(m.take())
 	m.must(0, e)
 	return n
 }
 
 // takeNums answers the two numbers that were given last, in their order.
-func (m *machine) takeNums() (x, y int64) {
+func (m *Machine) takeNums() (x, y int64) {
 	y = m.takeNum()
 	return m.takeNum(), y
 }
 
-func (m *machine) takeText() string {
+func (m *Machine) takeText() string {
 	s, e := value.AsText(m.take())
 	m.must(0, e)
 	return s
 }
 
-func (m *machine) takeTruth() bool {
+func (m *Machine) takeTruth() bool {
 	b, e := value.AsTruth(m.take())
 	m.must(0, e)
 	return b

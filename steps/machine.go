@@ -1,4 +1,4 @@
-package eval
+package steps
 
 import (
 	"slices"
@@ -8,11 +8,15 @@ import (
 	"culprit/value"
 )
 
-// machine runs a term. What waits stands in a list, not in calls of calls: in each of the calls that fuel allows a term's whole height may wait.
-type machine struct {
+// Cast answers what the Cast at a node makes of a value.
+type Cast func(v value.Value, node int) (value.Value, int64, api.Errno)
+
+// Machine runs a term. What waits stands in a list, not in calls of calls: in each of the calls that fuel allows a term's whole height may wait.
+type Machine struct {
 	term        []api.Node
 	ends        []int // where the part at each node ends
 	kinds       map[int8]func(here)
+	casts       Cast
 	heap        *heap.Heap
 	steps, fuel int
 	jobs        []job         // the next one last
@@ -29,14 +33,15 @@ type here struct {
 // job is something to be done for a node.
 type job struct {
 	here
-	do func(*machine, here)
+	do func(*Machine, here)
 }
 
 // code is what a function does with its argument.
 type code func(x value.Value)
 
-func newMachine(term []api.Node, fuel int) *machine {
-	m := &machine{term: term, ends: endsOf(term), heap: heap.New(), fuel: fuel}
+// New answers a machine that runs a term, whose nodes are whole, once.
+func New(term []api.Node, fuel int, casts Cast) *Machine {
+	m := &Machine{term: term, ends: endsOf(term), casts: casts, heap: heap.New(), fuel: fuel}
 	m.kinds = m.works()
 	return m
 }
@@ -54,9 +59,12 @@ func endsOf(term []api.Node) []int {
 	return ends
 }
 
-// run answers what the whole term gives.
-func (m *machine) run() value.Value {
-	m.later(here{}, (*machine).visit)
+// Node answers the node with that number.
+func (m *Machine) Node(node int) api.Node { return m.term[node] }
+
+// whole answers what the whole term gives.
+func (m *Machine) whole() value.Value {
+	m.later(here{}, (*Machine).visit)
 	for len(m.jobs) > 0 {
 		last := len(m.jobs) - 1
 		j := m.jobs[last]
@@ -68,17 +76,17 @@ func (m *machine) run() value.Value {
 }
 
 // later has something done for a node ahead of all that waits already.
-func (m *machine) later(n here, do func(*machine, here)) {
+func (m *Machine) later(n here, do func(*Machine, here)) {
 	m.jobs = append(m.jobs, job{n, do})
 }
 
 // visit has the kids of a node run, in their order, and then its own work done.
-func (m *machine) visit(n here) {
-	m.later(n, (*machine).work)
+func (m *Machine) visit(n here) {
+	m.later(n, (*Machine).work)
 	from := len(m.jobs)
 	kid := n.at + 1
 	for range kidsAhead(m.term[n.at]) {
-		m.later(here{kid, n.scope}, (*machine).visit)
+		m.later(here{kid, n.scope}, (*Machine).visit)
 		kid = m.ends[kid]
 	}
 	slices.Reverse(m.jobs[from:])
@@ -95,7 +103,7 @@ func kidsAhead(n api.Node) int {
 	return n.Kids
 }
 
-func (m *machine) work(n here) {
+func (m *Machine) work(n here) {
 	kind := m.term[n.at].Kind
 	if hasStep(kind) {
 		m.step()
@@ -112,17 +120,17 @@ func hasStep(kind int8) bool {
 }
 
 // step asks for fuel ahead of what is done, so that a fault or a blame for which there is none is not seen.
-func (m *machine) step() {
+func (m *Machine) step() {
 	if m.steps == m.fuel {
 		panic(spent{})
 	}
 	m.steps++
 }
 
-func (m *machine) give(v value.Value) { m.values = append(m.values, v) }
+func (m *Machine) give(v value.Value) { m.values = append(m.values, v) }
 
 // take answers what was given last.
-func (m *machine) take() value.Value {
+func (m *Machine) take() value.Value {
 	last := len(m.values) - 1
 	v := m.values[last]
 	m.values = m.values[:last]
@@ -130,13 +138,13 @@ func (m *machine) take() value.Value {
 }
 
 // giveGood gives what a call of value or heap answered, if it answered something.
-func (m *machine) giveGood(v value.Value, label int64, e api.Errno) {
+func (m *Machine) giveGood(v value.Value, label int64, e api.Errno) {
 	m.must(label, e)
 	m.give(v)
 }
 
 // must leaves the run where a call of value or heap refused.
-func (m *machine) must(label int64, e api.Errno) {
+func (m *Machine) must(label int64, e api.Errno) {
 	switch e {
 	case api.OK:
 	case api.ErrBlame:

@@ -1,4 +1,4 @@
-package eval
+package steps
 
 import (
 	"culprit/api"
@@ -13,9 +13,8 @@ type (
 	stuck   struct{ node int }
 )
 
-// runTerm runs a term whose nodes are whole; where its run is stuck, node is that node's number.
-func runTerm(term []api.Node, fuel, depth int) (r api.Result, node int) {
-	m := newMachine(term, fuel)
+// Run answers what is seen of the term's value, or why it has none; where the run is stuck, node is that node's number.
+func (m *Machine) Run(depth int) (r api.Result, node int) {
 	defer func() {
 		if thrown := recover(); thrown != nil {
 			var o api.Obs
@@ -23,7 +22,7 @@ func runTerm(term []api.Node, fuel, depth int) (r api.Result, node int) {
 			r = api.Result{Seen: []api.Obs{o}, Steps: m.steps}
 		}
 	}()
-	v := m.run()
+	v := m.whole()
 	return api.Result{Seen: value.Seen(v, depth), Steps: m.steps}, 0
 }
 

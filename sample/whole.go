@@ -1,19 +1,21 @@
-package eval_test
+package sample
 
 import (
-	"testing"
-
 	"culprit/api"
 	"culprit/module"
 	"culprit/parse"
 )
 
-// The document's examples of the whole, as far as programs are run cast by cast.
-func TestWholePrograms(t *testing.T) {
-	for _, c := range []struct {
-		source, seen string
-		steps        int
-	}{
+// Wholes answers the terms of the document's examples of the whole, as far as programs are run.
+func Wholes() (all []Known) {
+	for _, r := range sources() {
+		all = append(all, Known{linked(r.text), 3, r.seen, r.steps})
+	}
+	return all
+}
+
+func sources() []row {
+	return []row{
 		{`module m { let x : int = 1 + 2; }`, "num3", 1},
 		{`module m { let twice = fn (f) => fn (x) => f(f(x)); let y = twice(fn (n) => n + 3)(4); }`, "num10", 6},
 		{`module m { let f = fn (x) => x + 1; let y = f("a"); }`, "blame1", 1},
@@ -25,15 +27,18 @@ func TestWholePrograms(t *testing.T) {
 		{`module m { let b : box ? = box((1 : ?)); let c : box int = b; let d = (b := ("t" : ?)); let e = !c; }`, "blame2", 3},
 		{`module m { let f : int -> int = fn (x : int) : int => x + 1; let y : int = f(2); }`, "num3", 2},
 		{`module a { export let x : int = 1; } module m { import a.x; let y : int = x + 1; }`, "num2", 1},
-	} {
-		modules, e, _ := parse.Modules([]byte(c.source))
-		if e != api.OK {
-			t.Fatalf("the tests' own source is refused: %s", c.source)
-		}
-		program, e, _ := module.Link(modules)
-		if e != api.OK {
-			t.Fatalf("the tests' own modules are refused: %s", c.source)
-		}
-		wantRun(t, program.Term, 3, c.seen, c.steps)
 	}
+}
+
+// linked answers the core term of a source. It panics if there is none.
+func linked(source string) []api.Node {
+	modules, e, _ := parse.Modules([]byte(source))
+	if e != api.OK {
+		panic("the tests' own source is refused: " + source)
+	}
+	program, e, _ := module.Link(modules)
+	if e != api.OK {
+		panic("the tests' own modules are refused: " + source)
+	}
+	return program.Term
 }

@@ -9,6 +9,7 @@ import (
 	"culprit/core"
 	"culprit/emit"
 	"culprit/eval"
+	"culprit/rough"
 	"culprit/sample"
 )
 
@@ -19,14 +20,14 @@ func wantRuns(t *testing.T, l []api.Node, fuel, depth int) {
 	if e == api.ErrMany {
 		return
 	}
-	if why, unreached := whyNot(c); why != "" || unreached > 0 {
-		t.Fatalf("what follows: the code of %s may not run: %s; %d are not reached:\n%s", sample.Written(l), why, unreached, told(c))
+	if trap, known := rough.Look(c); trap.Err != api.OK || len(known) < code.Size(c) {
+		t.Fatalf("what follows: the code of %s may not run: %v; of %d instructions %d are reached:\n%s", sample.Written(l), trap, code.Size(c), len(known), told(c))
 	}
 	want, e := eval.Run(l, fuel, depth)
 	if e != api.OK {
 		t.Fatalf("the tests' own term %s: %d", sample.Written(l), e)
 	}
-	if seen, steps := run(c, fuel, depth); seen != sample.Told(want.Seen) || steps != want.Steps {
+	if seen, steps := rough.Run(c, fuel, depth); seen != sample.Told(want.Seen) || steps != want.Steps {
 		t.Fatalf("W3: %s: %s, %d steps; its code %s, %d steps:\n%s", sample.Written(l), short(sample.Told(want.Seen)), want.Steps, short(seen), steps, told(c))
 	}
 }

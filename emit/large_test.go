@@ -8,6 +8,7 @@ import (
 	"culprit/api"
 	"culprit/code"
 	"culprit/emit"
+	"culprit/rough"
 	"culprit/sample"
 )
 
@@ -60,10 +61,10 @@ func TestLongTerms(t *testing.T) {
 		laid++
 		wantModel(t, known.Term)
 		c := good(t, known.Term)
-		if why, unreached := whyNot(c); why != "" || unreached > 0 {
-			t.Errorf("what follows: the code of %s may not run: %s", sample.Written(known.Term), why)
+		if trap, reached := rough.Look(c); trap.Err != api.OK || len(reached) < code.Size(c) {
+			t.Errorf("what follows: the code of %s may not run: %v", sample.Written(known.Term), trap)
 		}
-		if seen, steps := run(c, api.MaxFuel, known.Depth); steps != known.Steps || known.Seen != "" && seen != known.Seen {
+		if seen, steps := rough.Run(c, api.MaxFuel, known.Depth); steps != known.Steps || known.Seen != "" && seen != known.Seen {
 			t.Errorf("W3: %s: %s, %d steps; not %s, %d", sample.Written(known.Term), short(seen), steps, short(known.Seen), known.Steps)
 		}
 	}

@@ -10,41 +10,8 @@ import (
 	"culprit/verify"
 )
 
-// roomy answers a list with spare room behind it, which has something in it.
-func roomy[T any](list []T, behind T) []T {
-	long := append(slices.Clone(list), behind, behind)
-	return long[:len(list)]
-}
-
-// spread answers the same code, each list of it with spare room.
-func spread(c api.Code) api.Code {
-	c.Nums, c.Texts, c.Types = roomy(c.Nums, 99), roomy(c.Texts, "behind"), roomy(c.Types, "z")
-	c.Casts = roomy(c.Casts, api.Waits{From: "z"})
-	c.Functions = roomy(c.Functions, api.Function{Param: "z"})
-	for n, w := range c.Casts {
-		c.Casts[n].Co = roomy(w.Co, api.Co{Op: 99})
-	}
-	for n, f := range c.Functions {
-		c.Functions[n].Env, c.Functions[n].Code = roomy(f.Env, "z"), roomy(f.Code, api.Ins{Op: 99})
-	}
-	return c
-}
-
 // whole answers a list with its spare room.
 func whole[T any](list []T) []T { return list[:cap(list)] }
-
-// kept answers all that code has, spare room too, in memory of its own.
-func kept(c api.Code) api.Code {
-	c.Nums, c.Texts, c.Types = slices.Clone(whole(c.Nums)), slices.Clone(whole(c.Texts)), slices.Clone(whole(c.Types))
-	c.Casts, c.Functions = slices.Clone(whole(c.Casts)), slices.Clone(whole(c.Functions))
-	for n, w := range c.Casts {
-		c.Casts[n].Co = slices.Clone(whole(w.Co))
-	}
-	for n, f := range c.Functions {
-		c.Functions[n].Env, c.Functions[n].Code = slices.Clone(whole(f.Env)), slices.Clone(whole(f.Code))
-	}
-	return c
-}
 
 func place(g *rough.Maker, c api.Code) (fn, at int) {
 	if len(c.Functions) == 0 {
@@ -63,8 +30,8 @@ func TestCodeStays(t *testing.T) {
 		if g.Coin() {
 			c = g.Spoilt(c)
 		}
-		c = spread(c)
-		before := kept(c)
+		c = rough.Roomy(c)
+		before := rough.Kept(c)
 		fn, at := place(&g, c)
 		trap, ok := verify.Code(c)
 		row, stack, there := verify.Types(c, fn, at)
@@ -79,7 +46,7 @@ func TestCodeStays(t *testing.T) {
 		if reached != there || !slices.Equal(r, row) || !slices.Equal(s, stack) {
 			t.Fatalf("R6: %s: at %d %d %v, %v, then %v, %v", rough.Written(c), fn, at, row, stack, r, s)
 		}
-		if !reflect.DeepEqual(kept(c), before) {
+		if !reflect.DeepEqual(rough.Kept(c), before) {
 			t.Fatalf("R5: %s: it is changed", rough.Written(c))
 		}
 	}
@@ -118,10 +85,10 @@ func TestAnswersAreNew(t *testing.T) {
 			}
 		}
 		// And what is done to one is seen in none of the others.
-		want := kept(c)
+		want := rough.Kept(c)
 		clear(whole(row))
 		clear(whole(stack))
-		if !reflect.DeepEqual(kept(c), want) || slices.Contains(row2, "") || slices.Contains(stack2, "") {
+		if !reflect.DeepEqual(rough.Kept(c), want) || slices.Contains(row2, "") || slices.Contains(stack2, "") {
 			t.Fatalf("R5: %s: what is done to an answer is seen elsewhere", rough.Written(c))
 		}
 	}

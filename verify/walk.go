@@ -4,6 +4,7 @@ import (
 	"culprit/api"
 	"culprit/code"
 	"culprit/coerce"
+	"culprit/fields"
 	"culprit/types"
 )
 
@@ -30,7 +31,6 @@ type walk struct {
 	state
 	shelf
 	code   api.Code
-	fields map[int8]func(*walk, api.Ins)
 	rules  map[int8]func(*walk, api.Ins)
 	heads  []head
 	fn, at int     // the place at hand; -1 where none is
@@ -42,7 +42,7 @@ type walk struct {
 }
 
 func newWalk(c api.Code) *walk {
-	return &walk{shelf: newShelf(), code: c, fields: fields(), rules: rules()}
+	return &walk{shelf: newShelf(), code: c, rules: rules()}
 }
 
 // lists looks at what stands beside the functions.
@@ -102,13 +102,10 @@ func (w *walk) function(fn int) {
 
 // instruction looks at an instruction, in the order in which its traps are told.
 func (w *walk) instruction(i api.Ins) {
-	rule, stands := w.rules[i.Op]
-	w.must(stands, api.ErrOp)
-	if ask, some := w.fields[i.Op]; some {
-		ask(w, i)
-	}
+	wrong := fields.Wrong(&w.code, w.fn, w.at, w.length(w.row))
+	w.must(wrong == api.OK, wrong)
 	w.must(w.waits == "" || i.Op == code.Pend || i.Op == code.Tail, api.ErrFrom)
-	rule(w, i)
+	w.rules[i.Op](w, i)
 	w.goOn(i)
 }
 

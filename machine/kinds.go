@@ -46,8 +46,11 @@ func (m *machine) list(i api.Ins) {
 	m.lay(l)
 }
 
+// cons asks for a list itself: package value makes a list of any rest, and would be stuck only where that is looked at.
 func (m *machine) cons(api.Ins) {
 	rest, first := m.take(), m.take()
+	_, e := value.IsEmpty(rest)
+	m.must(e == api.OK, api.ErrKind)
 	m.lay(value.Cons(first, rest))
 }
 

@@ -291,6 +291,7 @@ func (m *Exact) make(i api.Ins) {
 		m.lay(value.Pair(first, second))
 	case code.Cons:
 		rest, first := m.take(), m.take()
+		known(value.IsEmpty(rest))
 		m.lay(value.Cons(first, rest))
 	case code.List:
 		l := value.Nil()

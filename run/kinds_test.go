@@ -45,14 +45,20 @@ func TestKinds(t *testing.T) {
 	for ins, places := range map[string][]string{
 		"op Add": {"i", "i"}, "op Sub": {"i", "i"}, "op Mul": {"i", "i"}, "op Eq": {"i", "i"}, "op Less": {"i", "i"}, "op Join": {"t", "t"}, "op Neg": {"i"}, "op Size": {"t"},
 		"part First": {","}, "part Second": {","}, "part Head": {"l"}, "part Tail": {"l"}, "part Empty": {"l"}, "get": {"x"},
-		"unless 1": {"b"}, "call": {">"}, "tail": {">"}, "set": {"x"},
+		"unless 1": {"b"}, "call": {">"}, "tail": {">"}, "set": {"x"}, "cons": {"", "l"},
 	} {
 		for place, right := range places {
+			if right == "" { // anything
+				continue
+			}
 			for kind, some := range all {
 				for _, one := range some {
 					laid := make([]string, len(places))
 					for n := range places {
-						laid[n] = all[places[n]][0]
+						laid[n] = "push"
+						if places[n] != "" {
+							laid[n] = all[places[n]][0]
+						}
 					}
 					laid[place] = one
 					own := ins
@@ -76,21 +82,36 @@ func TestKinds(t *testing.T) {
 func TestAnyKind(t *testing.T) {
 	for _, some := range kinds() {
 		for _, one := range some {
-			for _, ins := range []string{"let, push", "box", "push, pair", "list 1 i", "list 0 i, cons", "push, cons"} {
+			for _, ins := range []string{"let, push", "box", "push, pair", "list 1 i", "list 0 i, cons"} {
 				wantKinds(t, ins, []string{one}, true)
 			}
 			wantKinds(t, "pair", []string{"push", one}, true)
-			// The rest of a list may be anything, too, till it is looked at.
-			wantKinds(t, "cons", []string{"push", one}, true)
 			wantKinds(t, "list 2 i", []string{one, one}, true)
 		}
 	}
+}
+
+// What a cons takes for its rest is a list, asked when its step has been made, though package value makes a list of any rest.
+func TestRestOfCons(t *testing.T) {
 	want(t,
-		"li: push, push, cons, ret", "cons num7 num7 1 0 0",
-		"i: push, push, cons, part Head, ret", "num7 2 0 0",
-		"i: push, push, cons, part Tail, part Head, ret", "ErrKind 0 4",
-		"b: push, push, cons, part Tail, part Empty, ret", "ErrKind 0 4",
+		"li: push, push, cons, ret", "ErrKind 0 2",
+		"i: push, push, cons, part Head, ret", "ErrKind 0 2",
+		"b: list 0 i, truth, cons", "ErrKind 0 2",
+		"li: push, push, list 0 i, cons, push, cons, ret", "ErrKind 0 5",
+		"i: fn 1, push, call, ret / i i: push, local, cons, ret", "ErrKind 1 2",
+		// A wrapper of lists around what is none, and one of something else around a list.
+		"li: push, push, cast li l?, cons, ret", "ErrKind 0 3",
+		"li: push, list 0 i, cast ,ii ,i?, cons, ret", "ErrKind 0 3",
+		// Lists of any length, wrapped or not; the wrapper is not the first value's.
+		"l?: push, cast i ?, list 0 i, cast li l?, cons, ret", "cons num7 empty 2 0 0",
+		"l?: push, cast i ?, push 1, list 1 i, cast li l?, cons, ret", "cons num7 cons num-1 empty 2 0 0",
+		"li: push, push 1, list 0 i, cons, cons, ret", "cons num7 cons num-1 empty 3 0 0",
 	)
+	for fuel, want := range []string{"fuel 0 0 0", "fuel 1 0 0", "ErrKind 0 2", "ErrKind 0 2"} {
+		if got := told(run.Loose(rough.Read("b: list 0 i, truth, cons"), fuel, 0)); got != want {
+			t.Errorf("P21.2: a truth as the rest of a cons, fuel %d: %s, not %s", fuel, got, want)
+		}
+	}
 }
 
 // What is handed in to a function or set into a box through a wrapper that looks for a tag, but has none: by the place of the call or the set; and what comes out of it.

@@ -200,6 +200,8 @@ func (m *Machine) plain(op int8, a int) {
 		m.lay(l)
 	case code.Cons:
 		rest, first := m.take(), m.take()
+		_, e := value.IsEmpty(rest)
+		m.must(0, e)
 		m.lay(value.Cons(first, rest))
 	case code.Part:
 		m.part(int8(a))
